@@ -109,6 +109,23 @@ func TestBytesOfWhatMayNotBe(t *testing.T) {
 	}
 }
 
+func TestBytesWithSendsOfOtherKinds(t *testing.T) {
+	send := byte(api.OpSend)
+	for _, b := range [][]byte{
+		{0, 1, 1, send, 0, 0, 0, 0, 0, 0, 0, 1},
+		{0, 1, 1, send, 0, 0, 0, 0, 0, 0, 0, 7},
+		{8, 2, 1, send, 0, 0, 0, 0, 0, 0, 0, 2, 0},
+		{0, 2, 0, 1, send, 0, 0, 0, 0, 0, 0, 0, 2},
+		{0, 2, 0, 1, send, 0, 0, 0, 1, 0, 0, 0, 1},
+		{0, 2, 0, 1, send, 255, 255, 255, 255, 255, 255, 255, 255},
+	} {
+		mustNotReadBytes(t, b)
+	}
+	mustReadBytes(t, []byte{0, 1, 1, send, 0, 0, 0, 0, 0, 0, 0, 0}, program(0, []api.Instr{{Op: api.OpSend}}), 12)
+	mustReadBytes(t, []byte{0, 2, 1, send, 0, 0, 0, 0, 0, 0, 0, 1, 0}, program(0, []api.Instr{{Op: api.OpSend, N: 1}}, nil), 13)
+	mustReadBytes(t, []byte{0, 2, 0, 1, send, 0, 0, 0, 0, 0, 0, 0, 1}, program(0, nil, []api.Instr{{Op: api.OpSend, N: 1}}), 13)
+}
+
 func TestBytesThatAreCut(t *testing.T) {
 	for _, p := range mayBe() {
 		b := bytesByWords(p)

@@ -12,7 +12,7 @@ import (
 )
 
 // operation is what the document says of one: its word, and, if its N is named, what that is at least and at most
-// in a program of 3 variables, at a kind of 5 instructions.
+// in a program of 3 variables and 4 kinds, at a kind of 5 instructions.
 type operation struct {
 	op       api.Op
 	word     string
@@ -36,7 +36,7 @@ var operations = []operation{
 	{api.OpSame, "same", false, 0, 0},
 	{api.OpJump, "jump", true, 0, 5},
 	{api.OpZero, "zero", true, 0, 5},
-	{api.OpSend, "send", true, 0, api.MaxKinds - 1},
+	{api.OpSend, "send", true, 0, 3},
 	{api.OpTell, "tell", false, 0, 0},
 	{api.OpEnd, "end", false, 0, 0},
 }
@@ -48,10 +48,10 @@ func program(vars int, kinds ...[]api.Instr) api.Program {
 	return api.Program{Vars: vars, Kinds: kinds}
 }
 
-// within is a program of 3 variables, with this instruction as the second one of five.
+// within is a program of 3 variables and 4 kinds, with this instruction as the second one of five, at the second kind.
 func within(o api.Op, n int64) api.Program {
 	end := api.Instr{Op: api.OpEnd}
-	return program(3, []api.Instr{end, {Op: o, N: n}, end, end, end})
+	return program(3, ends(1), []api.Instr{end, {Op: o, N: n}, end, end, end}, ends(8), nil)
 }
 
 func ends(n int) []api.Instr {
@@ -68,6 +68,9 @@ func mayBe() map[string]api.Program {
 		"most instructions": program(2, ends(3), ends(api.MaxCode)),
 		"most of all":       program(api.MaxVars, slices.Repeat([][]api.Instr{ends(api.MaxCode)}, api.MaxKinds)...),
 		"a far jump":        program(0, append(ends(api.MaxCode-1), api.Instr{Op: api.OpJump, N: api.MaxCode})),
+		"a send of itself":  program(0, []api.Instr{{Op: api.OpSend}}),
+		"a send of most":    program(0, append(make([][]api.Instr, api.MaxKinds-1), []api.Instr{{Op: api.OpSend, N: api.MaxKinds - 1}})...),
+		"a send of behind":  program(0, []api.Instr{{Op: api.OpSend, N: 1}}, nil),
 		"empty kinds between": program(1, nil, []api.Instr{{Op: api.OpPush, N: -7}, {Op: api.OpSend, N: 2}}, []api.Instr{},
 			[]api.Instr{{Op: api.OpZero, N: 1}}, nil),
 	}
@@ -95,6 +98,8 @@ func mayNotBe() map[string]api.Program {
 		"a load without variables":  program(0, []api.Instr{{Op: api.OpLoad}}),
 		"a store without variables": program(0, []api.Instr{{Op: api.OpStore}}),
 		"a jump as of another kind": program(0, []api.Instr{{Op: api.OpJump, N: 2}}, ends(5)),
+		"a send of no kind":         program(0, []api.Instr{{Op: api.OpSend, N: 1}}),
+		"a send as of others":       program(8, ends(8), []api.Instr{{Op: api.OpSend, N: api.MaxKinds - 1}}, ends(8)),
 		"wrong in the last kind":    program(1, ends(1), ends(1), []api.Instr{{Op: api.OpLoad, N: 1}}),
 		"wrong in the first kind":   program(1, []api.Instr{{Op: api.OpStore, N: 1}}, ends(1), ends(1)),
 	}
@@ -180,13 +185,15 @@ func TestMayOfVariablesByTheirNumber(t *testing.T) {
 	}
 }
 
-func TestMayOfKindsThatOthersHave(t *testing.T) {
+func TestMayOfSendsByTheKindsOfTheirProgram(t *testing.T) {
 	for kinds := 1; kinds <= api.MaxKinds; kinds++ {
-		for n := range int64(api.MaxKinds + 1) {
-			p := program(0, make([][]api.Instr, kinds)...)
-			p.Kinds[kinds-1] = []api.Instr{{Op: api.OpSend, N: n}}
-			if code.May(p) != (n < api.MaxKinds) {
-				t.Errorf("send %d of %d kinds: %v", n, kinds, n >= api.MaxKinds)
+		for at := range kinds {
+			for n := int64(-1); n <= api.MaxKinds; n++ {
+				p := program(api.MaxVars, slices.Repeat([][]api.Instr{ends(api.MaxKinds)}, kinds)...)
+				p.Kinds[at] = []api.Instr{{Op: api.OpEnd}, {Op: api.OpSend, N: n}}
+				if want := n >= 0 && n < int64(kinds); code.May(p) != want {
+					t.Errorf("send %d at kind %d of %d: %v", n, at, kinds, !want)
+				}
 			}
 		}
 	}

@@ -26,7 +26,7 @@ func number(r *rand.Rand, least, most int64) int64 {
 	return least + (n&math.MaxInt64)%(most-least+1)
 }
 
-func randomKind(r *rand.Rand, vars int) []api.Instr {
+func randomKind(r *rand.Rand, vars, kinds int) []api.Instr {
 	kind := make([]api.Instr, r.Intn(12))
 	for i := range kind {
 		o := operations[r.Intn(len(operations))]
@@ -40,6 +40,8 @@ func randomKind(r *rand.Rand, vars int) []api.Instr {
 			}
 		case api.OpJump, api.OpZero:
 			most = int64(len(kind))
+		case api.OpSend:
+			most = int64(kinds - 1)
 		}
 		kind[i] = api.Instr{Op: o.op, N: number(r, o.least, most)}
 	}
@@ -49,8 +51,9 @@ func randomKind(r *rand.Rand, vars int) []api.Instr {
 // randomProgram is one that may be.
 func randomProgram(r *rand.Rand) api.Program {
 	p := program(r.Intn(api.MaxVars + 1))
-	for range 1 + r.Intn(api.MaxKinds) {
-		p.Kinds = append(p.Kinds, randomKind(r, p.Vars))
+	kinds := 1 + r.Intn(api.MaxKinds)
+	for range kinds {
+		p.Kinds = append(p.Kinds, randomKind(r, p.Vars, kinds))
 	}
 	return p
 }

@@ -55,13 +55,13 @@ func TestTextOfTheExample(t *testing.T) {
 
 func TestTextOfAllOperations(t *testing.T) {
 	s := "vars 8\nkind\nkind\n  push -9223372036854775808\n  push 9223372036854775807\n  push 0\n  push -1\n  load 7\n" +
-		"  store 0\n  time\n  data\n  self\n  rand\n  add\n  sub\n  mul\n  less\n  same\n  jump 20\n  zero 10\n  send 7\n" +
+		"  store 0\n  time\n  data\n  self\n  rand\n  add\n  sub\n  mul\n  less\n  same\n  jump 20\n  zero 10\n  send 2\n" +
 		"  tell\n  end\nkind\n"
 	p := program(8, nil, []api.Instr{
 		{Op: api.OpPush, N: math.MinInt64}, {Op: api.OpPush, N: math.MaxInt64}, {Op: api.OpPush}, {Op: api.OpPush, N: -1},
 		{Op: api.OpLoad, N: 7}, {Op: api.OpStore}, {Op: api.OpTime}, {Op: api.OpData}, {Op: api.OpSelf}, {Op: api.OpRand},
 		{Op: api.OpAdd}, {Op: api.OpSub}, {Op: api.OpMul}, {Op: api.OpLess}, {Op: api.OpSame}, {Op: api.OpJump, N: 20},
-		{Op: api.OpZero, N: 10}, {Op: api.OpSend, N: 7}, {Op: api.OpTell}, {Op: api.OpEnd},
+		{Op: api.OpZero, N: 10}, {Op: api.OpSend, N: 2}, {Op: api.OpTell}, {Op: api.OpEnd},
 	}, nil)
 	if got := code.Text(p); got != s {
 		t.Errorf("%q, want %q", got, s)
@@ -157,6 +157,19 @@ func TestTextsWithWrongNumbers(t *testing.T) {
 		mustNotRead(t, "vars 8\nkind\n  jump "+digits+"\n")
 		mustNotRead(t, "vars 8\nkind\n  send "+digits+"\n")
 	}
+}
+
+func TestTextsWithSendsOfOtherKinds(t *testing.T) {
+	for _, s := range []string{
+		"vars 0\nkind\n  send 1\n", "vars 8\nkind\n  send 7\n", "vars 0\nkind\n  send 2\nkind\n", "vars 0\nkind\nkind\n  send 2\n",
+		"vars 0\nkind\n  send 8\n" + strings.Repeat("kind\n", 7), "vars 0\nkind\n  send 7\n" + strings.Repeat("kind\n", 6),
+		"vars 2\nkind\n  data\n  tell\n  load 0\n  push 2\n  sub\n  store 1\n  load 1\n  push 2\n  push 5\n  push 1\n  send 1\n",
+	} {
+		mustNotRead(t, s)
+	}
+	mustRead(t, "vars 0\nkind\n  send 0\n", program(0, []api.Instr{{Op: api.OpSend}}))
+	mustRead(t, "vars 0\nkind\n  send 1\nkind\n", program(0, []api.Instr{{Op: api.OpSend, N: 1}}, nil))
+	mustRead(t, "vars 0\nkind\nkind\n  send 1\n", program(0, nil, []api.Instr{{Op: api.OpSend, N: 1}}))
 }
 
 func TestTextsThatAreFarTooLong(t *testing.T) {
